@@ -74,12 +74,12 @@ func operation(r Source) int {
 // most is how high the stacks of what is drawn here grow.
 const most = 12
 
-// plain writes any instruction but a jump, ret or throw that fits at a height, and tells the height behind it.
-func (w *writer) plain(height int) int {
+// write writes an instruction that fits at a height, of any operation that may stand there, and tells the height behind it.
+func (w *writer) write(height int, may func(op int) bool) int {
 	for {
 		op := operation(w)
 		a, ok := w.operand(op)
-		if !ok || code.Ends(op) {
+		if !ok || !may(op) {
 			continue
 		}
 		takes, puts, _ := code.Effect(ins(op, a))
@@ -88,6 +88,11 @@ func (w *writer) plain(height int) int {
 			return after
 		}
 	}
+}
+
+// plain writes any instruction but a jump, ret or throw.
+func (w *writer) plain(height int) int {
+	return w.write(height, func(op int) bool { return !code.Ends(op) })
 }
 
 // leap writes a jump of some kind, to a place with the right height that is there (its own too), or to one that is yet to come.

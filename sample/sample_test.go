@@ -36,11 +36,39 @@ func TestDrawnIsRight(t *testing.T) {
 	}
 }
 
+// Programs that call are verified, and many of their calls name a function of as many parameters as they have values; profiles mostly say so.
+func TestCallers(t *testing.T) {
+	r := rand.New(rand.NewSource(4))
+	fit, told := 0, 0
+	for range 500 {
+		p := sample.Caller(r, 30)
+		if _, at, err := verify.Program(p); err != api.OK {
+			t.Fatal(err, "at", at)
+		}
+		prof := sample.Profile(r, p)
+		for k, f := range p.Funcs {
+			for pc, i := range f.Code {
+				at := pc - int(i.A) - 1
+				if i.Op != api.OpCall || at < 0 || f.Code[at].Op != api.OpFunc || int64(p.Funcs[f.Code[at].A].Params) != i.A {
+					continue
+				}
+				fit++
+				if pc < len(prof.Funcs[k]) && prof.Funcs[k][pc].Callee == int(f.Code[at].A)+1 {
+					told++
+				}
+			}
+		}
+	}
+	if fit < 500 || told < fit/2 {
+		t.Error("few calls:", fit, told)
+	}
+}
+
 // The same numbers draw the same.
 func TestDrawnAgain(t *testing.T) {
 	draw := func() api.Code {
 		r := rand.New(rand.NewSource(2))
-		p := sample.Program(r, 30)
+		p := sample.Caller(r, 30)
 		f, _, _ := verify.Program(p)
 		c, _ := lift.Function(p, f, 0)
 		return sample.Code(r, p, f, c)
